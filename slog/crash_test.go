@@ -53,11 +53,21 @@ func stale(t *testing.T, d *disk.Disk, from, n int, gen uint32) {
 	}
 }
 
+// What stood in a region ahead of its Format.
+const (
+	noughts = iota
+	anyBytes
+	oldMarks
+)
+
 // crashed is a disk of 16 sectors with a region of 12 from 2 on, formatted over what was there before; then the crash is ahead.
-func crashed(t *testing.T, old bool, crash api.Crash) *disk.Disk {
+func crashed(t *testing.T, before int, crash api.Crash) *disk.Disk {
 	t.Helper()
 	d := dirty(16, api.Crash{After: -1}, crash)
-	if old {
+	switch before {
+	case noughts:
+		put(t, d, 2, make([][64]byte, 12)...)
+	case oldMarks:
 		stale(t, d, 2, 12, 7)
 	}
 	mustFormat(t, d, 2, 12, 7)
@@ -68,10 +78,10 @@ func crashed(t *testing.T, old bool, crash api.Crash) *disk.Disk {
 // P14.5: the power goes at every write and keeps every part of it, over noughts, over any bytes and over an older log's marks.
 func TestWholeWhateverCrashStrikes(t *testing.T) {
 	for _, all := range scripts() {
-		for _, old := range []bool{false, true} {
+		for _, before := range []int{noughts, anyBytes, oldMarks} {
 			for after := range 30 {
 				for keep := -1; keep <= 65; keep++ {
-					d := crashed(t, old, api.Crash{After: after, Keep: keep})
+					d := crashed(t, before, api.Crash{After: after, Keep: keep})
 					ok := appendAll(mustOpen(t, d, 2, 12, 7), all)
 					if d.Dead() == (ok == len(all)) {
 						t.Fatalf("Dead %t behind %d of %d", d.Dead(), ok, len(all))
@@ -89,7 +99,7 @@ func TestTheOneBehindIsThereOnlyIfItsMarkIs(t *testing.T) {
 	b := sample(1, 120)
 	for after := range 4 {
 		for keep := range 65 {
-			d := crashed(t, true, api.Crash{After: 2 + after, Keep: keep})
+			d := crashed(t, oldMarks, api.Crash{After: 2 + after, Keep: keep})
 			l := mustOpen(t, d, 2, 12, 7)
 			mustAppend(t, l, []byte("a"))
 			if e := l.Append(b); e != api.ErrCrash {
